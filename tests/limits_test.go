@@ -13,7 +13,9 @@ func TestLimitsAndCodes(t *testing.T) {
 		got, want int
 	}{
 		{"RowMax", impl.RowMax, 24}, {"BlockMax", impl.BlockMax, 16}, {"SeedMax", impl.SeedMax, 2147483647}, {"PartAll", impl.PartAll, 65536},
+		{"LongMax", impl.LongMax, 300}, {"WindowMax", impl.WindowMax, 3}, {"IdMax", impl.IdMax, 9999}, {"NameMax", impl.NameMax, 6}, {"DataMax", impl.DataMax, 80}, {"CountMax", impl.CountMax, 99999}, {"LogMaxText", impl.LogMaxText, 9000}, {"LineMax", impl.LineMax, 500},
 		{"SolveNew", impl.SolveNew, 0}, {"SolveKnown", impl.SolveKnown, 1}, {"SolveWrong", impl.SolveWrong, 2}, {"SolveBad", impl.SolveBad, 3},
+		{"WordOpen", impl.WordOpen, 1}, {"WordAccept", impl.WordAccept, 2}, {"WordSymbol", impl.WordSymbol, 3}, {"WordKnown", impl.WordKnown, 4}, {"WordDone", impl.WordDone, 5}, {"WordGone", impl.WordGone, 6},
 	}
 	for _, c := range cases {
 		if c.got != c.want {

@@ -2,7 +2,9 @@ package tests
 
 import (
 	"slices"
+	"strings"
 	"testing"
+	"unsafe"
 
 	"loop.example/wellhead/impl"
 )
@@ -147,5 +149,164 @@ func TestDrawsAreNewMemory(t *testing.T) {
 	spoil(impl.RowDraw(10, 3))
 	if !slices.Equal(impl.Degrees(5), wasDegrees) || !slices.Equal(impl.RowDraw(10, 3), wasRow) {
 		t.Error("Degrees or RowDraw hand out memory that they keep")
+	}
+}
+
+// spoilPlan writes into all lists of a plan that was answered.
+func spoilPlan(p impl.Plan) {
+	spoil(p.Windows)
+	spoil(p.Weights)
+}
+
+// watchedPlan is a plan with spare room, and a look at all of it.
+type watchedPlan struct {
+	plan             impl.Plan
+	windows, weights []int
+}
+
+func watchPlan(p impl.Plan) watchedPlan {
+	w := watchedPlan{plan: p}
+	w.plan.Windows, w.windows = roomy(p.Windows)
+	w.plan.Weights, w.weights = roomy(p.Weights)
+	return w
+}
+
+// asWas says whether nothing was written into the plan, or behind an end.
+func (w watchedPlan) asWas(p impl.Plan) bool {
+	marks := []int{mark, mark, mark, mark}
+	return samePlan(w.plan, p) && slices.Equal(w.windows, slices.Concat(p.Windows, marks)) && slices.Equal(w.weights, slices.Concat(p.Weights, marks))
+}
+
+func TestPlansKeepTheirMemory(t *testing.T) {
+	r := newSource(33)
+	for range 200 {
+		p := somePlan(r)
+		was, w := copyPlan(p), watchPlan(p)
+		text := someText(r, p.Long)
+		impl.PlanOk(w.plan)
+		impl.PlanCount(w.plan)
+		impl.PlanSymbol(w.plan, text, 30)
+		impl.PlanWrite(w.plan)
+		blocks := impl.PlanCut(w.plan, text)
+		spoil(impl.PlanRow(w.plan, 0))
+		spoil(impl.PlanRow(w.plan, 30))
+		g := impl.GetNew(w.plan)
+		spoilPlan(g.Plan)
+		spoilSolver(g.Solver)
+		if !w.asWas(was) {
+			t.Fatalf("a plan was written into, or is shared: %#v", w)
+		}
+		for i := range blocks[:cap(blocks)] {
+			blocks[:cap(blocks)][i] = "spoilt"
+		}
+		if again := impl.PlanCut(w.plan, text); strings.Join(again, "")[:p.Long] != text {
+			t.Fatal("two answers of PlanCut share memory")
+		}
+	}
+}
+
+// The two lists of a plan that is answered are written into, one after the other.
+func TestListsOfAPlanShareNoMemory(t *testing.T) {
+	want := impl.Plan{Long: 60, Size: 8, Windows: []int{2, 8}, Weights: []int{2, 3}}
+	answers := func() []impl.Plan {
+		read, _ := impl.PlanRead("60/8:2,8:2,3")
+		g := impl.GetNew(want)
+		added, _ := impl.GetAdd(g, 0, "12345678")
+		stayed, _ := impl.GetAdd(g, -1, "12345678")
+		return []impl.Plan{impl.PlanFor(60), read, g.Plan, added.Plan, stayed.Plan}
+	}
+	for i, p := range answers() {
+		spoil(p.Windows)
+		if !slices.Equal(p.Weights, want.Weights) {
+			t.Errorf("answer %d: windows and weights share memory", i)
+		}
+	}
+	for i, p := range answers() {
+		spoil(p.Weights)
+		if !slices.Equal(p.Windows, want.Windows) {
+			t.Errorf("answer %d: weights and windows share memory", i)
+		}
+	}
+	for i, p := range answers() {
+		if !samePlan(p, want) {
+			t.Errorf("answer %d is memory that is kept: %#v", i, p)
+		}
+	}
+}
+
+func TestGettingsKeepTheirMemory(t *testing.T) {
+	r := newSource(34)
+	for range 200 {
+		p := somePlan(r)
+		text := someText(r, p.Long)
+		g := someGetting(t, r, p, text)
+		id := []int{-1, 0, 30, impl.IdMax, impl.IdMax + 1}[r.Intn(5)]
+		data, _ := impl.PlanSymbol(p, text, id)
+		was := copyGetting(g)
+		plan, solver := watchPlan(g.Plan), watch(g.Solver)
+		watched := impl.Getting{Plan: plan.plan, Solver: solver.solver}
+		impl.GetOk(watched)
+		impl.GetWindows(watched)
+		impl.GetText(watched)
+		impl.GetDone(watched)
+		impl.GetWant(watched, 0)
+		added, _ := impl.GetAdd(watched, id, data)
+		spoilPlan(added.Plan)
+		spoilSolver(added.Solver)
+		if !plan.asWas(was.Plan) || !solver.asWas(was.Solver) {
+			t.Fatalf("what is known was written into, or is shared: %#v %#v", plan, solver)
+		}
+	}
+}
+
+// sharesBytes says whether two texts have bytes in the same memory.
+func sharesBytes(a string, b string) bool {
+	if a == "" || b == "" {
+		return false
+	}
+	startA, startB := uintptr(unsafe.Pointer(unsafe.StringData(a))), uintptr(unsafe.Pointer(unsafe.StringData(b)))
+	return startA < startB+uintptr(len(b)) && startB < startA+uintptr(len(a))
+}
+
+func TestTextsAreNewMemory(t *testing.T) {
+	thing := strings.Repeat("abcdefgh", 2)
+	p := impl.PlanFor(len(thing))
+	for id, block := range impl.PlanCut(p, thing) {
+		symbol, _ := impl.PlanSymbol(p, thing, id)
+		if sharesBytes(block, thing) || sharesBytes(symbol, thing) {
+			t.Errorf("block %d shares the memory of the thing", id)
+		}
+		g, _ := impl.GetAdd(impl.GetNew(p), id, block)
+		if sharesBytes(g.Solver.Eqs[0].Data, block) || sharesBytes(impl.GetText(g), g.Solver.Eqs[0].Data) {
+			t.Errorf("what is known of block %d shares memory", id)
+		}
+	}
+	for _, w := range []impl.Word{{Kind: impl.WordOpen, Try: 1, Name: "abc"}, {Kind: impl.WordSymbol, Try: 1, Edition: 1, Data: "data"}} {
+		text := impl.WordWrite(w)
+		read, _ := impl.WordRead(text)
+		if sharesBytes(read.Name, text) || sharesBytes(read.Data, text) || sharesBytes(text, w.Data) {
+			t.Errorf("%#v shares the memory of its text", read)
+		}
+	}
+}
+
+func TestLogsAreNewMemory(t *testing.T) {
+	record := strings.Repeat("r", 40)
+	log := mustLog(t, mustLog(t, "", "first"), record)
+	records, _ := impl.LogRead(log)
+	for _, read := range records {
+		if sharesBytes(read, log) {
+			t.Errorf("the record %q shares the memory of its log", read)
+		}
+	}
+	torn := log[:len(log)-1]
+	for _, answer := range []string{impl.LogMend(log), impl.LogMend(torn), impl.LogTorn(log, record, 0), impl.LogTorn(log, record, 9), impl.LogTorn(log, "", 9), impl.LogTorn(torn, record, 9), mustLog(t, log, record)} {
+		if sharesBytes(answer, log) || sharesBytes(answer, record) {
+			t.Errorf("%q shares the memory of the log", answer)
+		}
+	}
+	records[0], records[:cap(records)][cap(records)-1] = "spoilt", "spoilt"
+	if again, _ := impl.LogRead(log); !slices.Equal(again, []string{"first", record}) {
+		t.Error("two answers of LogRead share memory")
 	}
 }
