@@ -310,3 +310,119 @@ func TestLogsAreNewMemory(t *testing.T) {
 		t.Error("two answers of LogRead share memory")
 	}
 }
+
+// watchedCat is a catalogue with spare room, and a look at all of it.
+type watchedCat struct {
+	cat   impl.Cat
+	items []impl.Item
+}
+
+func watchCat(c impl.Cat) watchedCat {
+	w := watchedCat{cat: c, items: slices.Concat(c.Items, []impl.Item{{House: mark}, {House: mark}})}
+	w.cat.Items = w.items[:len(c.Items)]
+	return w
+}
+
+// asWas says whether nothing was written into the catalogue, or behind its end.
+func (w watchedCat) asWas(c impl.Cat) bool {
+	return sameCat(w.cat, c) && slices.Equal(w.items, slices.Concat(c.Items, []impl.Item{{House: mark}, {House: mark}}))
+}
+
+// spoilCat writes into all of a catalogue that was answered, spare room included.
+func spoilCat(c impl.Cat) {
+	whole := c.Items[:cap(c.Items)]
+	for i := range whole {
+		whole[i] = impl.Item{House: 5555, Name: "spoilt"}
+	}
+}
+
+func TestCatsKeepTheirMemory(t *testing.T) {
+	r := newSource(35)
+	for range 500 {
+		c := someCat(r)
+		was, w := copyCat(c), watchCat(c)
+		house, name, text := r.Intn(3), catNames()[r.Intn(10)], strings.Repeat("x", r.Intn(4))
+		impl.CatOk(w.cat)
+		impl.CatGet(w.cat, house, name)
+		impl.CatEdition(w.cat, 1)
+		impl.CatBytes(w.cat, house)
+		put, _ := impl.CatPut(w.cat, house, name, text)
+		taken, _ := impl.CatTake(w.cat, house, name)
+		spoilCat(put)
+		spoilCat(taken)
+		if !w.asWas(was) {
+			t.Fatalf("a catalogue was written into, or is shared: %#v", w)
+		}
+	}
+	records := []string{"0 a:x", "0 b:y", "0 a:", "1 a:z", "spare"}
+	was := slices.Clone(records)
+	c, _ := impl.CatOf(records[:4])
+	spoilCat(c)
+	if again, ok := impl.CatOf(records[:4]); !slices.Equal(records, was) || !ok || len(again.Items) != 2 || again.Items[0].Name != "b" {
+		t.Errorf("records were written into, or CatOf hands out what it keeps: %q %#v", records, again)
+	}
+}
+
+func TestTextsOfCatsAreNewMemory(t *testing.T) {
+	name, text := strings.Repeat("n", 6), strings.Repeat("t", 60)
+	c, _ := impl.CatPut(impl.Cat{}, 1, name, text)
+	record := impl.CatRecord(1, name, text)
+	read, _ := impl.CatOf([]string{record})
+	more, _ := impl.CatPut(c, 0, "a", "x")
+	stays, _ := impl.CatPut(c, 0, "", "x")
+	less, _ := impl.CatTake(more, 0, "a")
+	got, _ := impl.CatGet(c, 1, name)
+	edition, _ := impl.CatEdition(c, 1)
+	items := []impl.Item{c.Items[0], read.Items[0], more.Items[1], stays.Items[0], less.Items[0], got, edition}
+	texts := []string{name, text, record}
+	for i, item := range items {
+		for _, other := range append(texts, item.Name) {
+			if sharesBytes(item.Text, other) {
+				t.Errorf("the text of item %d shares memory", i)
+			}
+		}
+		for _, other := range texts {
+			if sharesBytes(item.Name, other) {
+				t.Errorf("the name of item %d shares memory", i)
+			}
+		}
+		texts = append(texts, item.Name, item.Text)
+	}
+	if sharesBytes(record, name) || sharesBytes(record, text) {
+		t.Error("a record shares memory")
+	}
+}
+
+func TestPoolsKeepTheirMemory(t *testing.T) {
+	r := newSource(36)
+	spare := []impl.Frame{{House: mark}, {House: mark}}
+	for range 1000 {
+		p := somePool(r)
+		whole := slices.Concat(p.Frames, spare)
+		watched := impl.Pool{Frames: whole[:8], Hand: p.Hand}
+		house, place := r.Intn(3), r.Intn(10)-1
+		impl.PoolOk(watched)
+		impl.PoolOf(watched, house)
+		taken, _, _ := impl.PoolTake(watched, house, 1+r.Intn(5), r.Intn(7))
+		let, _ := impl.PoolLet(watched, place)
+		dropped := impl.PoolDrop(watched, r.Intn(5))
+		for _, answer := range []impl.Pool{taken, let, dropped} {
+			frames := answer.Frames[:cap(answer.Frames)]
+			for i := range frames {
+				frames[i] = impl.Frame{House: 5555}
+			}
+		}
+		if !slices.Equal(whole, slices.Concat(p.Frames, spare)) {
+			t.Fatalf("a pool was written into, or is shared: %#v", whole)
+		}
+	}
+}
+
+func TestJobsKeepTheirMemory(t *testing.T) {
+	list := []impl.Job{{Id: 1, Worth: 1}, {Id: 2, Worth: 5}, {Id: 3, Worth: 9}, {Id: 4, Worth: 2}, {Id: mark}}
+	was := slices.Clone(list)
+	impl.JobNext(list[:4], 9)
+	if !slices.Equal(list, was) {
+		t.Errorf("jobs were written into: %#v", list)
+	}
+}
