@@ -426,3 +426,245 @@ func TestJobsKeepTheirMemory(t *testing.T) {
 		t.Errorf("jobs were written into: %#v", list)
 	}
 }
+
+// watchedServer is a server with spare room everywhere, and a look at all of it.
+type watchedServer struct {
+	server  impl.Server
+	cat     watchedCat
+	frames  []impl.Frame
+	buckets []impl.Bucket
+	serves  []impl.Serve
+}
+
+// The spare room of a server that is watched.
+var (
+	spareFrames  = []impl.Frame{{House: mark}, {House: mark}}
+	spareBuckets = []impl.Bucket{{Level: mark}, {Level: mark}}
+	spareServes  = []impl.Serve{{Client: mark}, {Client: mark}}
+)
+
+func watchServer(s impl.Server) watchedServer {
+	w := watchedServer{server: s, cat: watchCat(s.Cat), frames: slices.Concat(s.Pool.Frames, spareFrames), buckets: slices.Concat(s.Buckets, spareBuckets), serves: slices.Concat(s.Serves, spareServes)}
+	w.server.Cat = w.cat.cat
+	w.server.Pool.Frames, w.server.Buckets, w.server.Serves = w.frames[:len(s.Pool.Frames)], w.buckets[:len(s.Buckets)], w.serves[:len(s.Serves)]
+	return w
+}
+
+// asWas says whether nothing was written into the server, or behind an end.
+func (w watchedServer) asWas(s impl.Server) bool {
+	return sameServer(w.server, s) && w.cat.asWas(s.Cat) && slices.Equal(w.frames, slices.Concat(s.Pool.Frames, spareFrames)) && slices.Equal(w.buckets, slices.Concat(s.Buckets, spareBuckets)) && slices.Equal(w.serves, slices.Concat(s.Serves, spareServes))
+}
+
+// spoilAll writes into all of a list that was answered, spare room included.
+func spoilAll[T any](list []T, spoilt T) {
+	whole := list[:cap(list)]
+	for i := range whole {
+		whole[i] = spoilt
+	}
+}
+
+// spoilServer writes into all lists of a server that was answered.
+func spoilServer(s impl.Server) {
+	spoilCat(s.Cat)
+	spoilAll(s.Pool.Frames, impl.Frame{House: 5555})
+	spoilAll(s.Buckets, impl.Bucket{Level: 5555})
+	spoilAll(s.Serves, impl.Serve{Client: 5555})
+}
+
+// serverAnswers are all servers and words that are answered, of a server, a word and a record; the last one is what rises behind a fall.
+func serverAnswers(s impl.Server, w impl.Word, house int, name string, text string, bytes int) ([]impl.Server, [][]impl.Word) {
+	impl.ServerOk(s)
+	put, _ := impl.ServerPut(s, house, name, text)
+	taken, _ := impl.ServerTake(s, house, name)
+	heard, answer := impl.ServerHear(s, w)
+	ticked, told := impl.ServerTick(s)
+	fallen := impl.ServerFall(s, impl.CatRecord(house, name, text), bytes)
+	return []impl.Server{put, taken, heard, ticked, fallen, impl.ServerRise(s), impl.ServerRise(fallen)}, [][]impl.Word{answer, told}
+}
+
+func TestServersKeepTheirMemory(t *testing.T) {
+	r := newSource(37)
+	for range 500 {
+		s := anyServer(r)
+		was, w := copyServer(s), watchServer(s)
+		servers, words := serverAnswers(w.server, someServeWord(r, s), r.Intn(3), someName(r), serveTexts()[r.Intn(10)], r.Intn(50))
+		var copies []impl.Server
+		for _, answer := range servers {
+			copies = append(copies, copyServer(answer))
+		}
+		for i, answer := range servers {
+			if !sameServer(answer, copies[i]) {
+				t.Fatalf("answer %d shares memory with another one: %#v", i, answer)
+			}
+			spoilServer(answer)
+		}
+		for _, list := range words {
+			spoilAll(list, impl.Word{Kind: 5555})
+		}
+		if !w.asWas(was) {
+			t.Fatalf("a server was written into, or is shared: %#v", w)
+		}
+	}
+	spoilServer(impl.ServerNew())
+	if !impl.ServerOk(impl.ServerNew()) {
+		t.Error("ServerNew hands out memory that it keeps")
+	}
+}
+
+// textsOf are all texts of a server.
+func textsOf(s impl.Server) []string {
+	texts := []string{s.Log}
+	for _, item := range s.Cat.Items {
+		texts = append(texts, item.Name, item.Text)
+	}
+	return texts
+}
+
+// textsOfWords are all texts of words.
+func textsOfWords(words []impl.Word) []string {
+	var texts []string
+	for _, w := range words {
+		texts = append(texts, w.Name, w.Data)
+	}
+	return texts
+}
+
+// checkNewTexts says of each text of an answer that no argument, and no other one of it, has its bytes.
+func checkNewTexts(t *testing.T, what string, answer []string, given []string) {
+	t.Helper()
+	for i, text := range answer {
+		for _, other := range append(slices.Clone(given), answer[:i]...) {
+			if sharesBytes(text, other) {
+				t.Errorf("%s: %q shares memory with %q", what, text, other)
+			}
+		}
+	}
+}
+
+func TestTextsOfServersAreNewMemory(t *testing.T) {
+	name, text := strings.Repeat("n", 6), strings.Repeat("t", 60)
+	torn := impl.ServerFall(busyServer(), "0 c:more", 9)
+	for _, s := range []impl.Server{busyServer(), torn, impl.ServerFall(busyServer(), "", 0), turned(func(s *impl.Server) { s.Now = 99999 })} {
+		for _, house := range []int{0, 1, 2} { // the last one has a code
+			w := impl.Word{Kind: impl.WordOpen, Client: 1, Try: 9, Name: strings.Repeat("a", 1+house)}
+			given := append(textsOf(s), name, text, w.Name)
+			servers, words := serverAnswers(s, w, house, name, text, 999)
+			for i, answer := range servers {
+				all := textsOf(answer)
+				if i == 2 || i == 3 {
+					all = append(all, textsOfWords(words[i-2])...)
+				}
+				checkNewTexts(t, "a server", all, given)
+			}
+		}
+	}
+}
+
+// watchedClient is a client with spare room everywhere, and a look at all of it.
+type watchedClient struct {
+	client impl.Client
+	plan   watchedPlan
+	solver watched
+}
+
+func watchClient(c impl.Client) watchedClient {
+	w := watchedClient{client: c, plan: watchPlan(c.Get.Plan), solver: watch(c.Get.Solver)}
+	w.client.Get = impl.Getting{Plan: w.plan.plan, Solver: w.solver.solver}
+	return w
+}
+
+// asWas says whether nothing was written into the client, or behind an end.
+func (w watchedClient) asWas(c impl.Client) bool {
+	return sameClient(w.client, c) && w.plan.asWas(c.Get.Plan) && w.solver.asWas(c.Get.Solver)
+}
+
+// spoilClient writes into all lists of a client that was answered.
+func spoilClient(c impl.Client) {
+	spoilPlan(c.Get.Plan)
+	spoilSolver(c.Get.Solver)
+}
+
+// clientAnswers are all clients and words that are answered, of a client, a name and a word.
+func clientAnswers(c impl.Client, name string, w impl.Word) ([]impl.Client, [][]impl.Word) {
+	impl.ClientOk(c)
+	impl.ClientText(c)
+	opened, asks := impl.ClientOpen(c, name)
+	again, rest := impl.ClientAgain(c)
+	stopped, done := impl.ClientStop(c)
+	heard, answer := impl.ClientHear(c, w)
+	return []impl.Client{opened, again, stopped, heard}, [][]impl.Word{asks, rest, done, answer, impl.ClientTick(c)}
+}
+
+func TestClientsKeepTheirMemory(t *testing.T) {
+	r := newSource(38)
+	for range 1500 {
+		c, text := someClient(t, r)
+		was, w := copyClient(c), watchClient(c)
+		clients, words := clientAnswers(w.client, []string{"a", "", "toolong"}[r.Intn(3)], someClientWord(r, c, text))
+		for _, answer := range clients {
+			spoilClient(answer)
+		}
+		for _, list := range words {
+			spoilAll(list, impl.Word{Kind: 5555})
+		}
+		if !w.asWas(was) {
+			t.Fatalf("a client was written into, or is shared: %#v", w)
+		}
+	}
+}
+
+// Each list of a client that is answered is written into, and all others are as they were.
+func TestListsOfAClientShareNoMemory(t *testing.T) {
+	c := knowing(t, 2, 1, 2)
+	for _, w := range []impl.Word{{}, {Kind: impl.WordSymbol, Client: 2, Try: 3, Edition: 5, Num: 7, Data: mustSymbol(t, impl.PlanFor(20), foxText, 7)}, {Kind: impl.WordGone, Client: 2, Try: 3, Edition: 5}} {
+		clients, _ := clientAnswers(c, "", w)
+		for i := range clients {
+			for list := range 5 {
+				answers, _ := clientAnswers(c, "", w)
+				got, want := answers[i], copyClient(clients[i])
+				lists, wants := intLists(got), intLists(want)
+				if list >= len(lists) {
+					continue
+				}
+				spoil(lists[list])
+				for j := range lists {
+					if j != list && !slices.Equal(lists[j], wants[j]) {
+						t.Errorf("list %d and list %d of answer %d share memory", list, j, i)
+					}
+				}
+			}
+		}
+	}
+}
+
+// intLists are all lists of numbers that a client has.
+func intLists(c impl.Client) [][]int {
+	lists := [][]int{c.Get.Plan.Windows, c.Get.Plan.Weights}
+	for _, eq := range c.Get.Solver.Eqs {
+		lists = append(lists, eq.Row)
+	}
+	return lists
+}
+
+func TestTextsOfClientsAreNewMemory(t *testing.T) {
+	textsOf := func(c impl.Client) []string {
+		texts := []string{c.Name}
+		for _, eq := range c.Get.Solver.Eqs {
+			texts = append(texts, eq.Data)
+		}
+		return texts
+	}
+	name := strings.Repeat("n", 6)
+	for _, c := range []impl.Client{knowing(t, 1), knowing(t, 1, 0), knowing(t, 2, 0), knowing(t, 2, 2, 1), knowing(t, 3, 0, 1, 2), knowing(t, 4, 0)} {
+		c.Name = strings.Repeat("o", 5)
+		for _, w := range []impl.Word{{}, {Kind: impl.WordAccept, Client: 2, Try: 3, Edition: 5, Data: strings.Repeat("20/8:1,3:2,3", 1)}, {Kind: impl.WordSymbol, Client: 2, Try: 3, Edition: 5, Num: 1, Data: mustSymbol(t, impl.PlanFor(20), foxText, 1)}, {Kind: impl.WordGone, Client: 2, Try: 3, Edition: 5}} {
+			given := append(textsOf(c), name, w.Name, w.Data)
+			clients, words := clientAnswers(c, name, w)
+			for i, answer := range clients {
+				checkNewTexts(t, "a client", append(textsOf(answer), textsOfWords(words[i])...), given)
+			}
+			checkNewTexts(t, "ClientTick", textsOfWords(words[4]), given)
+			checkNewTexts(t, "ClientText", []string{impl.ClientText(c)}, given)
+		}
+	}
+}
