@@ -21,6 +21,8 @@ func TestLimitsAndCodes(t *testing.T) {
 		{"CatDone", impl.CatDone, 0}, {"CatBad", impl.CatBad, 1}, {"CatThere", impl.CatThere, 2}, {"CatNone", impl.CatNone, 3}, {"CatFull", impl.CatFull, 4},
 		{"PoolHit", impl.PoolHit, 0}, {"PoolMiss", impl.PoolMiss, 1}, {"PoolFull", impl.PoolFull, 2}, {"PoolBad", impl.PoolBad, 3},
 		{"ClientIdle", impl.ClientIdle, 0}, {"ClientAsks", impl.ClientAsks, 1}, {"ClientGets", impl.ClientGets, 2}, {"ClientFull", impl.ClientFull, 3}, {"ClientLost", impl.ClientLost, 4},
+		{"RadioMax", impl.RadioMax, 60}, {"PlayMax", impl.PlayMax, 400}, {"CalmMax", impl.CalmMax, 10}, {"ToServer", impl.ToServer, 9},
+		{"WorldPut", impl.WorldPut, 1}, {"WorldTake", impl.WorldTake, 2}, {"WorldOpen", impl.WorldOpen, 3}, {"WorldAgain", impl.WorldAgain, 4}, {"WorldStop", impl.WorldStop, 5}, {"WorldServe", impl.WorldServe, 6}, {"WorldTick", impl.WorldTick, 7}, {"WorldBring", impl.WorldBring, 8}, {"WorldLose", impl.WorldLose, 9}, {"WorldSpoil", impl.WorldSpoil, 10}, {"WorldFall", impl.WorldFall, 11}, {"WorldRise", impl.WorldRise, 12},
 	}
 	for _, c := range cases {
 		if c.got != c.want {
